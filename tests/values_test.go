@@ -158,19 +158,23 @@ func TestValueOk(t *testing.T) {
 	}
 }
 
+// placeOrder tells the order of what stands at two places of an ascending list.
+func placeOrder(i int, j int) int {
+	if i < j {
+		return -1
+	}
+	if i > j {
+		return 1
+	}
+	return 0
+}
+
 func TestPromise1OneOrder(t *testing.T) {
 	list := writtenValues()
 	for i, a := range list {
 		for j, b := range list {
-			want := 0
-			if i < j {
-				want = -1
-			}
-			if i > j {
-				want = 1
-			}
-			if got := impl.ValueOrder(a.v, b.v); got != want {
-				t.Fatalf("order of %s and %s is %d, not %d", a.s, b.s, got, want)
+			if got := impl.ValueOrder(a.v, b.v); got != placeOrder(i, j) {
+				t.Fatalf("order of %s and %s is %d, not %d", a.s, b.s, got, placeOrder(i, j))
 			}
 		}
 	}
