@@ -842,6 +842,17 @@ func overwrite(rows bag) {
 	_ = append(rows, []impl.Value{num(80)})
 }
 
+// checkNotWritten asks of tables and of a plan that were given with room behind them whether they are what they were.
+func checkNotWritten(t *testing.T, given []impl.Table, tables []impl.Table, steps plan, p plan) {
+	t.Helper()
+	if !sameTables(given, tables) || !tablesRoomIsLeft(given) {
+		t.Fatalf("by %v the tables became %v, or the room behind them did", p, given)
+	}
+	if !sameSteps(steps, p) || !planRoomIsLeft(steps) {
+		t.Fatalf("%v became %v, or the room behind it did", p, steps)
+	}
+}
+
 // What is told of a plan shares no memory with the tables, nor with the plan, and neither of them is written.
 func TestPlansAreNewMemory(t *testing.T) {
 	tables := house()
@@ -858,12 +869,7 @@ func TestPlansAreNewMemory(t *testing.T) {
 			list[i] = 77
 		}
 		_ = append(list, 78)
-		if !sameTables(given, tables) || !tablesRoomIsLeft(given) {
-			t.Fatalf("by %v the tables became %v, or the room behind them did", p, given)
-		}
-		if !sameSteps(steps, p) || !planRoomIsLeft(steps) {
-			t.Fatalf("%v became %v, or the room behind it did", p, steps)
-		}
+		checkNotWritten(t, given, tables, steps, p)
 		checkRows(t, given, steps, wantPlanRows(tables, p))
 	}
 }

@@ -549,6 +549,18 @@ func overwriteRow(row []impl.Value) {
 	_ = append(row, num(78))
 }
 
+// checkRowsShareNothing writes over rows that a plan gave, one after the other, and asks that those behind stay what they were.
+func checkRowsShareNothing(t *testing.T, p plan, rows bag, want bag) {
+	t.Helper()
+	for n := range rows {
+		overwriteRow(rows[n])
+		if n+1 < len(rows) && !sameRow(rows[n+1], want[n+1]) {
+			t.Fatalf("rows of %v share memory", p)
+		}
+	}
+	overwrite(rows)
+}
+
 // Rows that are asked for share no memory with tables, nor with each other, and neither tables nor plans are written.
 func TestPulledRowsAreNewMemory(t *testing.T) {
 	tables := house()
@@ -559,13 +571,7 @@ func TestPulledRowsAreNewMemory(t *testing.T) {
 		given, steps := roomyTables(tables), roomyPlan(p)
 		rows := wantPlanRows(tables, p)
 		first := impl.RowsFirst(given, steps, len(rows))
-		for n := range first {
-			overwriteRow(first[n])
-			if n+1 < len(first) && !sameRow(first[n+1], rows[n+1]) {
-				t.Fatalf("rows of %v share memory", p)
-			}
-		}
-		overwrite(first)
+		checkRowsShareNothing(t, p, first, rows)
 		for n := range rows[:min(len(rows), 5)] {
 			row, _ := impl.RowAt(given, steps, n)
 			overwriteRow(row)
@@ -575,11 +581,6 @@ func TestPulledRowsAreNewMemory(t *testing.T) {
 			}
 		}
 		impl.RowReads(given, steps, len(rows))
-		if !sameTables(given, tables) || !tablesRoomIsLeft(given) {
-			t.Fatalf("by %v the tables became %v, or the room behind them did", p, given)
-		}
-		if !sameSteps(steps, p) || !planRoomIsLeft(steps) {
-			t.Fatalf("%v became %v, or the room behind it did", p, steps)
-		}
+		checkNotWritten(t, given, tables, steps, p)
 	}
 }

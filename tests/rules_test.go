@@ -637,11 +637,6 @@ func TestTurnedPlansAreNewMemory(t *testing.T) {
 			checkStepsShareNothing(t, turned)
 			overwriteSteps(turned)
 		}
-		if !sameTables(given, tables) || !tablesRoomIsLeft(given) {
-			t.Fatalf("by %v the tables became %v, or the room behind them did", p, given)
-		}
-		if !sameSteps(steps, p) || !planRoomIsLeft(steps) {
-			t.Fatalf("%v became %v, or the room behind it did", p, steps)
-		}
+		checkNotWritten(t, given, tables, steps, p)
 	}
 }
